@@ -5,6 +5,7 @@ import (
 	"slices"
 
 	"crux/api"
+	"crux/check"
 )
 
 // The draws of an order by a key: each one is the one before times the factor, modulo the prime.
@@ -16,7 +17,7 @@ const (
 // Shares divides an integer by weights.
 func Shares(total int, weights []int) ([]int, api.Errno) {
 	inRange := total >= 0 && total <= api.MaxNumber
-	e := firstError(errorIf(!inRange, api.ErrRange), checkWeights(weights))
+	e := check.First(check.If(!inRange, api.ErrRange), checkWeights(weights))
 	if e != api.OK {
 		return nil, e
 	}
@@ -59,7 +60,7 @@ func checkWeights(weights []int) api.Errno {
 		}
 		zero = zero && w == 0
 	}
-	return errorIf(zero, api.ErrZero)
+	return check.If(zero, api.ErrZero)
 }
 
 // Draw returns a drawn order of n elements.

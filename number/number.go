@@ -40,21 +40,3 @@ func isInteger(s string) bool {
 func isShortInteger(s string) bool {
 	return len(s) <= 9 && isInteger(s)
 }
-
-// firstError returns the first of errors that is not OK, or OK.
-func firstError(l ...api.Errno) api.Errno {
-	for _, e := range l {
-		if e != api.OK {
-			return e
-		}
-	}
-	return api.OK
-}
-
-// errorIf returns an error if it is one.
-func errorIf(wrong bool, e api.Errno) api.Errno {
-	if wrong {
-		return e
-	}
-	return api.OK
-}

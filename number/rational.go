@@ -4,6 +4,7 @@ import (
 	"strings"
 
 	"crux/api"
+	"crux/check"
 	"crux/exact"
 )
 
@@ -39,7 +40,7 @@ func Mul(a, b api.Rat) (api.Rat, api.Errno) {
 // Div returns the quotient.
 func Div(a, b api.Rat) (api.Rat, api.Errno) {
 	x, y, e := readTwo(a, b)
-	if e = firstError(e, errorIf(y.Sign() == 0, api.ErrZero)); e != api.OK {
+	if e = check.First(e, check.If(y.Sign() == 0, api.ErrZero)); e != api.OK {
 		return "", e
 	}
 	return write(x.Over(y))
@@ -99,14 +100,14 @@ func split(s string) (string, string, api.Errno) {
 	wrong := !isInteger(size) || negative && size == "0" ||
 		broken && (!isInteger(den) || den == "0" || den == "1")
 	large := len(size) > api.MaxDigits || len(den) > api.MaxDigits
-	e := firstError(errorIf(wrong, api.ErrForm), errorIf(large, api.ErrLarge))
+	e := check.First(check.If(wrong, api.ErrForm), check.If(large, api.ErrLarge))
 	return num, den, e
 }
 
 func readTwo(a, b api.Rat) (exact.Rat, exact.Rat, api.Errno) {
 	x, first := read(a)
 	y, second := read(b)
-	return x, y, firstError(first, second)
+	return x, y, check.First(first, second)
 }
 
 // write returns the text of a number, or ErrLarge.

@@ -2,6 +2,7 @@ package number
 
 import (
 	"crux/api"
+	"crux/check"
 	"crux/exact"
 )
 
@@ -31,7 +32,7 @@ func Solve(m [][]api.Rat, b []api.Rat) ([]api.Rat, api.Errno) {
 
 // readEquations returns the rows of the matrix, each one with its number of b behind it.
 func readEquations(m [][]api.Rat, b []api.Rat) ([][]exact.Rat, api.Errno) {
-	e := firstError(errorIf(len(m) == 0, api.ErrEmpty), errorIf(len(m) > MaxEquations, api.ErrMany))
+	e := check.First(check.If(len(m) == 0, api.ErrEmpty), check.If(len(m) > MaxEquations, api.ErrMany))
 	if e != api.OK {
 		return nil, e
 	}

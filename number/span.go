@@ -4,6 +4,7 @@ import (
 	"slices"
 
 	"crux/api"
+	"crux/check"
 	"crux/exact"
 )
 
@@ -41,7 +42,7 @@ func Times(a, b api.Span) (api.Span, api.Errno) {
 func Over(a, b api.Span) (api.Span, api.Errno) {
 	x, y, e := readTwoSpans(a, b)
 	hasZero := y.low.Sign() <= 0 && y.high.Sign() >= 0
-	if e = firstError(e, errorIf(hasZero, api.ErrZero)); e != api.OK {
+	if e = check.First(e, check.If(hasZero, api.ErrZero)); e != api.OK {
 		return api.Span{}, e
 	}
 	return writeSpan(x.over(y))
@@ -104,7 +105,7 @@ func computeSpan(a, b api.Span, operation func(x, y interval) interval) (api.Spa
 func readTwoSpans(a, b api.Span) (interval, interval, api.Errno) {
 	x, first := readSpan(a)
 	y, second := readSpan(b)
-	return x, y, firstError(first, second)
+	return x, y, check.First(first, second)
 }
 
 // readSpan returns the span with two texts, or its error.
@@ -123,7 +124,7 @@ func readSpan(s api.Span) (interval, api.Errno) {
 func writeSpan(s interval) (api.Span, api.Errno) {
 	low, first := write(s.low)
 	high, second := write(s.high)
-	if e := firstError(first, second); e != api.OK {
+	if e := check.First(first, second); e != api.OK {
 		return api.Span{}, e
 	}
 	return api.Span{Low: low, High: high}, api.OK

@@ -2,6 +2,7 @@ package number
 
 import (
 	"crux/api"
+	"crux/check"
 	"crux/exact"
 )
 
@@ -21,7 +22,7 @@ func CheckTable(t []api.Point) api.Errno {
 func Value(t []api.Point, x api.Rat) (api.Rat, api.Errno) {
 	table, first := readTable(t)
 	at, second := read(x)
-	if e := firstError(first, second); e != api.OK {
+	if e := check.First(first, second); e != api.OK {
 		return "", e
 	}
 	return write(valueAt(table, at))
@@ -50,7 +51,7 @@ func between(p, q point, x exact.Rat) exact.Rat {
 }
 
 func readTable(t []api.Point) ([]point, api.Errno) {
-	e := firstError(errorIf(len(t) == 0, api.ErrEmpty), errorIf(len(t) > api.MaxBreaks, api.ErrMany))
+	e := check.First(check.If(len(t) == 0, api.ErrEmpty), check.If(len(t) > api.MaxBreaks, api.ErrMany))
 	if e != api.OK {
 		return nil, e
 	}

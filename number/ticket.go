@@ -5,6 +5,7 @@ import (
 	"strings"
 
 	"crux/api"
+	"crux/check"
 )
 
 // separator stands between the texts of two tickets.
@@ -44,13 +45,13 @@ func CheckTicket(t Ticket) api.Errno {
 
 // Print returns the text of tickets.
 func Print(l []Ticket) (string, api.Errno) {
-	e := firstError(errorIf(len(l) == 0, api.ErrEmpty), errorIf(len(l) > api.MaxList, api.ErrMany))
+	e := check.First(check.If(len(l) == 0, api.ErrEmpty), check.If(len(l) > api.MaxList, api.ErrMany))
 	if e != api.OK {
 		return "", e
 	}
 	texts := []string{}
 	for _, t := range l {
-		e := firstError(CheckTicket(t), errorIf(t.Discipline != l[0].Discipline, api.ErrKind))
+		e := check.First(CheckTicket(t), check.If(t.Discipline != l[0].Discipline, api.ErrKind))
 		if e != api.OK {
 			return "", e
 		}
@@ -61,7 +62,7 @@ func Print(l []Ticket) (string, api.Errno) {
 
 // Parse returns the tickets with a text.
 func Parse(s string) ([]Ticket, int, api.Errno) {
-	e := firstError(errorIf(len(s) > api.MaxText, api.ErrLong), errorIf(s == "", api.ErrEmpty))
+	e := check.First(check.If(len(s) > api.MaxText, api.ErrLong), check.If(s == "", api.ErrEmpty))
 	if e != api.OK {
 		return nil, 0, e
 	}
@@ -72,7 +73,7 @@ func Parse(s string) ([]Ticket, int, api.Errno) {
 			return nil, i + 1, api.ErrSyntax
 		}
 		tickets = append(tickets, t)
-		e := firstError(errorIf(len(tickets) > api.MaxList, api.ErrMany), CheckTicket(t), errorIf(t.Discipline != tickets[0].Discipline, api.ErrKind))
+		e := check.First(check.If(len(tickets) > api.MaxList, api.ErrMany), CheckTicket(t), check.If(t.Discipline != tickets[0].Discipline, api.ErrKind))
 		if e != api.OK {
 			return nil, i + 1, e
 		}
@@ -94,7 +95,7 @@ func parseTicket(s string) (Ticket, bool) {
 func checkLead(t Ticket) api.Errno {
 	inRange := t.Hold >= 0 && t.Hold <= api.MaxHolds && t.Top >= 0 && t.Top <= 1 && t.Zone == 0
 	more := t.Top == 1 && (t.Plus || t.Hold > 0)
-	return firstError(errorIf(!inRange, api.ErrRange), errorIf(more, api.ErrForm))
+	return check.First(check.If(!inRange, api.ErrRange), check.If(more, api.ErrForm))
 }
 
 func printLead(t Ticket) string {
@@ -122,7 +123,7 @@ func parseLead(s string) (Ticket, bool) {
 func checkBoulder(t Ticket) api.Errno {
 	inRange := t.Hold == 0 && isAttempt(t.Top) && isAttempt(t.Zone)
 	wrong := t.Plus || t.Top > 0 && (t.Zone == 0 || t.Zone > t.Top)
-	return firstError(errorIf(!inRange, api.ErrRange), errorIf(wrong, api.ErrForm))
+	return check.First(check.If(!inRange, api.ErrRange), check.If(wrong, api.ErrForm))
 }
 
 func isAttempt(n int) bool {

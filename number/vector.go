@@ -2,12 +2,13 @@ package number
 
 import (
 	"crux/api"
+	"crux/check"
 	"crux/exact"
 )
 
 // Dot returns the scalar product of two vectors.
 func Dot(a, b api.Place) (int, api.Errno) {
-	if e := firstError(checkVector(a), checkVector(b)); e != api.OK {
+	if e := check.First(checkVector(a), checkVector(b)); e != api.OK {
 		return 0, e
 	}
 	return dot(a, b), api.OK
@@ -15,7 +16,7 @@ func Dot(a, b api.Place) (int, api.Errno) {
 
 // Cross returns the vector product of two vectors.
 func Cross(a, b api.Place) (api.Place, api.Errno) {
-	if e := firstError(checkVector(a), checkVector(b)); e != api.OK {
+	if e := check.First(checkVector(a), checkVector(b)); e != api.OK {
 		return api.Place{}, e
 	}
 	return api.Place{X: a.Y*b.Z - a.Z*b.Y, Y: a.Z*b.X - a.X*b.Z, Z: a.X*b.Y - a.Y*b.X}, api.OK
@@ -40,7 +41,7 @@ func dot(a, b api.Place) int {
 }
 
 func checkVector(a api.Place) api.Errno {
-	return errorIf(isFar(a.X) || isFar(a.Y) || isFar(a.Z), api.ErrRange)
+	return check.If(isFar(a.X) || isFar(a.Y) || isFar(a.Z), api.ErrRange)
 }
 
 func isFar(coordinate int) bool {
