@@ -3,6 +3,7 @@ package wall
 import (
 	"math"
 	"math/rand"
+	"slices"
 	"testing"
 
 	"crux/api"
@@ -168,4 +169,28 @@ func TestRandomSight(t *testing.T) {
 		}
 	}
 	want(t, "something is blocked", blocked > 500, true)
+}
+
+// P2.4: the same for large panels, and places as far away as they may be.
+func TestSightFarAway(t *testing.T) {
+	r := rand.New(rand.NewSource(17))
+	blocked := 0
+	for range 100 {
+		w := Wall{Name: "w", Panels: []Panel{randomPanel(r, 7000), randomPanel(r, 7000)}}
+		w.Panels[1].Corners = slices.Concat(w.Panels[1].Corners[1:], w.Panels[1].Corners[:1])
+		for range 20 {
+			a, b := randomPlace(r, 100000), randomPlace(r, 100000)
+			var all []int
+			for n, p := range w.Panels {
+				if bigStands(p, a, b) {
+					all = append(all, n)
+				}
+			}
+			l, e := Blocks(w, a, b)
+			want(t, "Blocks", e, api.OK)
+			want(t, "Blocks", l, all)
+			blocked += len(l)
+		}
+	}
+	want(t, "something is blocked", blocked > 50, true)
 }
