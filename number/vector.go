@@ -8,7 +8,7 @@ import (
 
 // Dot returns the scalar product of two vectors.
 func Dot(a, b api.Place) (int, api.Errno) {
-	if e := check.First(checkVector(a), checkVector(b)); e != api.OK {
+	if e := check.Places(a, b); e != api.OK {
 		return 0, e
 	}
 	return dot(a, b), api.OK
@@ -16,7 +16,7 @@ func Dot(a, b api.Place) (int, api.Errno) {
 
 // Cross returns the vector product of two vectors.
 func Cross(a, b api.Place) (api.Place, api.Errno) {
-	if e := check.First(checkVector(a), checkVector(b)); e != api.OK {
+	if e := check.Places(a, b); e != api.OK {
 		return api.Place{}, e
 	}
 	return api.Place{X: a.Y*b.Z - a.Z*b.Y, Y: a.Z*b.X - a.X*b.Z, Z: a.X*b.Y - a.Y*b.X}, api.OK
@@ -24,7 +24,7 @@ func Cross(a, b api.Place) (api.Place, api.Errno) {
 
 // Length returns a span that contains the length of a vector.
 func Length(a api.Place) (api.Span, api.Errno) {
-	if e := checkVector(a); e != api.OK {
+	if e := check.Places(a); e != api.OK {
 		return api.Span{}, e
 	}
 	square := exact.Whole(dot(a, a))
@@ -38,12 +38,4 @@ func Length(a api.Place) (api.Span, api.Errno) {
 
 func dot(a, b api.Place) int {
 	return a.X*b.X + a.Y*b.Y + a.Z*b.Z
-}
-
-func checkVector(a api.Place) api.Errno {
-	return check.If(isFar(a.X) || isFar(a.Y) || isFar(a.Z), api.ErrRange)
-}
-
-func isFar(coordinate int) bool {
-	return coordinate < -api.MaxPlace || coordinate > api.MaxPlace
 }

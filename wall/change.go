@@ -16,7 +16,7 @@ type change struct {
 
 // Moved returns a wall that is moved.
 func Moved(w Wall, by api.Place) (Wall, api.Errno) {
-	if e := check.First(CheckWall(w), checkPlaces(by)); e != api.OK {
+	if e := check.First(CheckWall(w), check.Places(by)); e != api.OK {
 		return Wall{}, e
 	}
 	move := change{
@@ -99,5 +99,5 @@ func (w Wall) checkReach() api.Errno {
 	for _, e := range w.Frame {
 		places = append(places, e.A, e.B)
 	}
-	return checkPlaces(places...)
+	return check.Places(places...)
 }

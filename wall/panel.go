@@ -59,7 +59,7 @@ func Steepness(p Panel) (api.Rat, api.Errno) {
 // On returns 1, 0 or -1 for a place inside, on the border, or outside of a panel, in its plane.
 func On(p Panel, at api.Place) (int, api.Errno) {
 	f, e := faceOf(p)
-	if e = check.First(e, checkPlaces(at)); e != api.OK {
+	if e = check.First(e, check.Places(at)); e != api.OK {
 		return 0, e
 	}
 	if f.height(at) != 0 {
@@ -94,7 +94,7 @@ func checkCorners(p Panel) api.Errno {
 	if e != api.OK {
 		return e
 	}
-	return check.First(checkPlaces(p.Corners...), checkPlaces(p.Origin, p.U, p.V))
+	return check.First(check.Places(p.Corners...), check.Places(p.Origin, p.U, p.V))
 }
 
 func (f face) checkPlane() api.Errno {

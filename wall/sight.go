@@ -37,7 +37,7 @@ func Within(w Wall, hold string, reach int) ([]string, api.Errno) {
 // Blocks returns the panels through which the straight way from one place to another one goes.
 func Blocks(w Wall, a, b api.Place) ([]int, api.Errno) {
 	s, e := structureOf(w)
-	if e = check.First(e, checkPlaces(a, b)); e != api.OK {
+	if e = check.First(e, check.Places(a, b)); e != api.OK {
 		return nil, e
 	}
 	return s.blocks(a, b), api.OK

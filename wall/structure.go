@@ -36,7 +36,7 @@ func Spot(w Wall, hold string) (api.Place, api.Errno) {
 // Find returns the first panel that has a place.
 func Find(w Wall, at api.Place) (int, api.Errno) {
 	s, e := structureOf(w)
-	if e = check.First(e, checkPlaces(at)); e != api.OK {
+	if e = check.First(e, check.Places(at)); e != api.OK {
 		return 0, e
 	}
 panels:
@@ -97,7 +97,7 @@ func (s *structure) addFrame() api.Errno {
 	}
 	for _, edge := range s.wall.Frame {
 		e := check.First(
-			checkPlaces(edge.A, edge.B),
+			check.Places(edge.A, edge.B),
 			check.If(edge.A == edge.B, api.ErrZero),
 			check.If(s.frame[edge], api.ErrTwice),
 		)

@@ -81,17 +81,3 @@ func divisor(a, b int) int {
 func sign(n int) int {
 	return min(1, max(-1, n))
 }
-
-// checkPlaces returns the error of the first place with one.
-func checkPlaces(l ...api.Place) api.Errno {
-	for _, a := range l {
-		if isFar(a.X) || isFar(a.Y) || isFar(a.Z) {
-			return api.ErrRange
-		}
-	}
-	return api.OK
-}
-
-func isFar(coordinate int) bool {
-	return coordinate < -api.MaxPlace || coordinate > api.MaxPlace
-}
