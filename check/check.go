@@ -23,12 +23,18 @@ func If(wrong bool, e api.Errno) api.Errno {
 
 // Each searches a list for the first element with an error, and returns this error, or OK. The error of an element may depend on its number.
 func Each[T any](l []T, errorOf func(i int, x T) api.Errno) api.Errno {
+	_, e := Find(l, errorOf)
+	return e
+}
+
+// Find searches a list for the first element with an error, and returns its number and its error, or 0 and OK.
+func Find[T any](l []T, errorOf func(i int, x T) api.Errno) (int, api.Errno) {
 	for i, x := range l {
 		if e := errorOf(i, x); e != api.OK {
-			return e
+			return i, e
 		}
 	}
-	return api.OK
+	return 0, api.OK
 }
 
 // Range returns ErrRange if a number is not from the least to the greatest one.

@@ -32,18 +32,22 @@ func TestIf(t *testing.T) {
 	}
 }
 
-func TestEach(t *testing.T) {
+func TestEachAndFind(t *testing.T) {
 	errorOf := func(i int, x api.Errno) api.Errno { return If(i > 0, x) }
 	for _, row := range []struct {
 		l []api.Errno
+		n int
 		e api.Errno
 	}{
-		{nil, api.OK},
-		{[]api.Errno{api.ErrForm, api.OK}, api.OK},
-		{[]api.Errno{api.ErrForm, api.OK, api.ErrZero, api.ErrForm}, api.ErrZero},
+		{nil, 0, api.OK},
+		{[]api.Errno{api.ErrForm, api.OK}, 0, api.OK},
+		{[]api.Errno{api.ErrForm, api.OK, api.ErrZero, api.ErrForm}, 2, api.ErrZero},
 	} {
 		if e := Each(row.l, errorOf); e != row.e {
 			t.Errorf("Each(%v): got %v, want %v", row.l, e, row.e)
+		}
+		if n, e := Find(row.l, errorOf); n != row.n || e != row.e {
+			t.Errorf("Find(%v): got %v and %v, want %v and %v", row.l, n, e, row.n, row.e)
 		}
 	}
 }

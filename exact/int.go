@@ -1,4 +1,4 @@
-// Package exact has integers and rational numbers of any size. The layers compute with them, as no limit bounds what is on the way to a result.
+// Package exact has integers and rational numbers of any size, and spans and tables of them. The layers compute with them, as no limit bounds what is on the way to a result.
 package exact
 
 // Int is an integer. The zero value is 0.

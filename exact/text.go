@@ -24,6 +24,20 @@ func Parse(digits string) Int {
 	return intOf(false, z)
 }
 
+// ParseRat returns the number with a text: an integer, or two with a slash between them, the first one perhaps with a minus sign in front, the second one not 0.
+func ParseRat(text string) Rat {
+	num, den, broken := strings.Cut(text, "/")
+	if !broken {
+		den = "1"
+	}
+	size, negative := strings.CutPrefix(num, "-")
+	top := Parse(size)
+	if negative {
+		top = top.Negated()
+	}
+	return Quotient(top, Parse(den))
+}
+
 // String returns the decimal digits of a, with a minus sign in front if it is negative.
 func (a Int) String() string {
 	groups := []string{}

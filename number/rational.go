@@ -74,34 +74,25 @@ func compute(a, b api.Rat, operation func(x, y exact.Rat) exact.Rat) (api.Rat, a
 
 // read returns the number with a text, or the error of the text.
 func read(a api.Rat) (exact.Rat, api.Errno) {
-	num, den, e := split(string(a))
-	if e != api.OK {
+	text := string(a)
+	if e := checkParts(text); e != api.OK {
 		return exact.Rat{}, e
 	}
-	bottom := exact.Parse(den)
-	top := exact.Parse(strings.TrimPrefix(num, "-"))
-	if num[0] == '-' {
-		top = top.Negated()
-	}
-	x := exact.Quotient(top, bottom)
-	if x.Den().Compare(bottom) != 0 { // a common divisor has gone
+	x := exact.ParseRat(text)
+	if x.String() != text { // a common divisor has gone
 		return exact.Rat{}, api.ErrForm
 	}
 	return x, api.OK
 }
 
-// split returns the numerator, with its sign, and the denominator of the text of a number.
-func split(s string) (string, string, api.Errno) {
+// checkParts returns the error of the numerator or the denominator in the text of a number, without a look at common divisors.
+func checkParts(s string) api.Errno {
 	num, den, broken := strings.Cut(s, "/")
-	if !broken {
-		den = "1"
-	}
 	size, negative := strings.CutPrefix(num, "-")
 	wrong := !isInteger(size) || negative && size == "0" ||
 		broken && (!isInteger(den) || den == "0" || den == "1")
 	large := len(size) > api.MaxDigits || len(den) > api.MaxDigits
-	e := check.First(check.If(wrong, api.ErrForm), check.If(large, api.ErrLarge))
-	return num, den, e
+	return check.First(check.If(wrong, api.ErrForm), check.If(large, api.ErrLarge))
 }
 
 func readTwo(a, b api.Rat) (exact.Rat, exact.Rat, api.Errno) {

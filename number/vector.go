@@ -4,6 +4,7 @@ import (
 	"crux/api"
 	"crux/check"
 	"crux/exact"
+	"crux/space"
 )
 
 // Dot returns the scalar product of two vectors.
@@ -11,7 +12,7 @@ func Dot(a, b api.Place) (int, api.Errno) {
 	if e := check.Places(a, b); e != api.OK {
 		return 0, e
 	}
-	return dot(a, b), api.OK
+	return space.Of(a).Dot(space.Of(b)), api.OK
 }
 
 // Cross returns the vector product of two vectors.
@@ -19,7 +20,7 @@ func Cross(a, b api.Place) (api.Place, api.Errno) {
 	if e := check.Places(a, b); e != api.OK {
 		return api.Place{}, e
 	}
-	return api.Place{X: a.Y*b.Z - a.Z*b.Y, Y: a.Z*b.X - a.X*b.Z, Z: a.X*b.Y - a.Y*b.X}, api.OK
+	return space.Of(a).Cross(space.Of(b)).Place(), api.OK
 }
 
 // Length returns a span that contains the length of a vector.
@@ -27,15 +28,11 @@ func Length(a api.Place) (api.Span, api.Errno) {
 	if e := check.Places(a); e != api.OK {
 		return api.Span{}, e
 	}
-	square := exact.Whole(dot(a, a))
+	square := exact.Whole(space.Square(api.Place{}, a))
 	low := square.Root()
 	high := low
 	if low.Times(low).Compare(square) < 0 {
 		high = low.Plus(exact.Whole(1))
 	}
-	return writeSpan(interval{exact.Integer(low), exact.Integer(high)})
-}
-
-func dot(a, b api.Place) int {
-	return a.X*b.X + a.Y*b.Y + a.Z*b.Z
+	return writeSpan(exact.Span{Low: exact.Integer(low), High: exact.Integer(high)})
 }

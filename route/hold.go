@@ -6,6 +6,7 @@ import (
 	"crux/api"
 	"crux/check"
 	"crux/number"
+	"crux/space"
 )
 
 // maxValue is the greatest value of a hold.
@@ -83,7 +84,5 @@ func (r Route) has(holds ...int) bool {
 
 // square returns the square of the distance of two holds.
 func (r Route) square(a, b int) int {
-	from, to := r.Holds[a].At, r.Holds[b].At
-	x, y, z := to.X-from.X, to.Y-from.Y, to.Z-from.Z
-	return x*x + y*y + z*z
+	return space.Square(r.Holds[a].At, r.Holds[b].At)
 }

@@ -5,6 +5,7 @@ import (
 
 	"crux/api"
 	"crux/check"
+	"crux/space"
 )
 
 // change is what happens to the parts of a wall.
@@ -20,7 +21,7 @@ func Moved(w Wall, by api.Place) (Wall, api.Errno) {
 		return Wall{}, e
 	}
 	move := change{
-		place: func(a api.Place) api.Place { return vectorOf(a).plus(vectorOf(by)).place() },
+		place: func(a api.Place) api.Place { return space.Of(a).Plus(space.Of(by)).Place() },
 		arrow: func(a api.Place) api.Place { return a },
 	}
 	moved := move.wall(w)

@@ -7,6 +7,7 @@ import (
 	"crux/api"
 	"crux/check"
 	"crux/exact"
+	"crux/space"
 )
 
 // Neighbours returns the pairs of panels that share an edge.
@@ -55,7 +56,7 @@ func Bend(w Wall, a, b int) (api.Rat, api.Errno) {
 	}
 	// The lengths of the vectors do not matter, so they need not be normals.
 	m, n := s.faces[a].vector, s.faces[b].vector
-	d := m.exactDot(n)
+	d := m.ExactDot(n)
 	return ratio(d.Times(d.Size()), squares(m, n)), api.OK
 }
 
@@ -74,10 +75,10 @@ func (s *structure) shareEdge(a, b int) bool {
 }
 
 // squares returns the product of the squares of vectors.
-func squares(l ...vector) exact.Int {
+func squares(l ...space.Vector) exact.Int {
 	product := exact.Whole(1)
 	for _, a := range l {
-		product = product.Times(a.exactDot(a))
+		product = product.Times(a.ExactDot(a))
 	}
 	return product
 }

@@ -7,6 +7,7 @@ import (
 	"testing"
 
 	"crux/api"
+	"crux/space"
 )
 
 // cube returns the six sides of a cube, seen from outside.
@@ -14,7 +15,7 @@ func cube() Wall {
 	side := func(l ...int) Panel {
 		p := Panel{Corners: at(l...)}
 		p.Origin = p.Corners[0]
-		p.U, p.V = way(p.Corners[0], p.Corners[1]).place(), way(p.Corners[0], p.Corners[3]).place()
+		p.U, p.V = space.Way(p.Corners[0], p.Corners[1]).Place(), space.Way(p.Corners[0], p.Corners[3]).Place()
 		return p
 	}
 	return Wall{Name: "cube", Panels: []Panel{

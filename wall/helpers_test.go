@@ -7,6 +7,7 @@ import (
 	"testing"
 
 	"crux/api"
+	"crux/space"
 )
 
 // want reports a result that is not the wanted one. Nil and empty lists are equal.
@@ -159,7 +160,7 @@ func randomPlace(r *rand.Rand, size int) api.Place {
 func randomFlat(r *rand.Rand, size int) flat {
 	for {
 		f := flat{randomPlace(r, size), randomPlace(r, size), randomPlace(r, size), 3 + r.Intn(4)}
-		if vectorOf(f.u).cross(vectorOf(f.v)) != (vector{}) {
+		if space.Of(f.u).Cross(space.Of(f.v)) != (space.Vector{}) {
 			return f
 		}
 	}

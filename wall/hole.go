@@ -5,6 +5,7 @@ import (
 
 	"crux/api"
 	"crux/check"
+	"crux/space"
 )
 
 // Hole returns the place of a hole.
@@ -87,8 +88,8 @@ func isOffGrid(n int) bool {
 
 // spot returns the place of a hole, also if it is not on the panel.
 func (f face) spot(i, j int) api.Place {
-	u, v := vectorOf(f.panel.U), vectorOf(f.panel.V)
-	return vectorOf(f.panel.Origin).plus(u.times(i)).plus(v.times(j)).place()
+	u, v := space.Of(f.panel.U), space.Of(f.panel.V)
+	return space.Of(f.panel.Origin).Plus(u.Times(i)).Plus(v.Times(j)).Place()
 }
 
 // holes returns the holes in lexicographic order.
@@ -111,9 +112,9 @@ func (f face) column(i int) (int, int) {
 	least, greatest := -MaxGrid, MaxGrid
 	for e := range f.edges() {
 		// On a line of holes the distance to an edge grows evenly, so that a division finds where it is 0.
-		side := way(e.A, e.B).times(sign(f.vector[f.axis]))
-		distance := side.cross(way(e.A, f.spot(i, 0)))[f.axis]
-		growth := side.cross(vectorOf(f.panel.V))[f.axis]
+		side := space.Way(e.A, e.B).Times(sign(f.vector[f.axis]))
+		distance := side.Cross(space.Way(e.A, f.spot(i, 0)))[f.axis]
+		growth := side.Cross(space.Of(f.panel.V))[f.axis]
 		switch {
 		case growth > 0:
 			least = max(least, -floor(distance, growth))

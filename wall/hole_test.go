@@ -7,6 +7,7 @@ import (
 	"testing"
 
 	"crux/api"
+	"crux/space"
 )
 
 // thin is a panel with three holes, at opposite ends of the grid.
@@ -119,9 +120,9 @@ func TestAllHoles(t *testing.T) {
 // plainOn is On, written as the chapter has it, for a small panel.
 func plainOn(p Panel, at api.Place) int {
 	c, on := p.Corners, 1
-	vector := way(c[0], c[1]).cross(way(c[1], c[2]))
+	vector := space.Way(c[0], c[1]).Cross(space.Way(c[1], c[2]))
 	for _, e := range plainEdges(p) {
-		on = min(on, sign(way(e.A, e.B).cross(way(e.A, at)).dot(vector)))
+		on = min(on, sign(space.Way(e.A, e.B).Cross(space.Way(e.A, at)).Dot(vector)))
 	}
 	return on
 }
@@ -136,12 +137,12 @@ func TestRandomHoles(t *testing.T) {
 		if a*d == b*c {
 			continue
 		}
-		u, v := vectorOf(p.U), vectorOf(p.V)
-		p.U, p.V = u.times(a).plus(v.times(b)).place(), u.times(c).plus(v.times(d)).place()
+		u, v := space.Of(p.U), space.Of(p.V)
+		p.U, p.V = u.Times(a).Plus(v.Times(b)).Place(), u.Times(c).Plus(v.Times(d)).Place()
 		var all [][2]int
 		for i := -25; i <= 25; i++ {
 			for j := -25; j <= 25; j++ {
-				spot := vectorOf(p.Origin).plus(vectorOf(p.U).times(i)).plus(vectorOf(p.V).times(j)).place()
+				spot := space.Of(p.Origin).Plus(space.Of(p.U).Times(i)).Plus(space.Of(p.V).Times(j)).Place()
 				inside := plainOn(p, spot) >= 0
 				if inside {
 					all = append(all, [2]int{i, j})

@@ -7,12 +7,13 @@ import (
 	"crux/check"
 	"crux/exact"
 	"crux/number"
+	"crux/space"
 )
 
 // face is a panel without errors, and what follows from its corners.
 type face struct {
 	panel  Panel
-	vector vector
+	vector space.Vector
 	axis   int // one along which the vector is not 0
 }
 
@@ -28,7 +29,7 @@ func Normal(p Panel) (api.Place, api.Errno) {
 	if e != api.OK {
 		return api.Place{}, e
 	}
-	return f.vector.shortened().place(), api.OK
+	return shortened(f.vector).Place(), api.OK
 }
 
 // Area returns the area of a panel.
@@ -37,12 +38,12 @@ func Area(p Panel) (api.Span, api.Errno) {
 	if e != api.OK {
 		return api.Span{}, e
 	}
-	twice := vector{}
+	twice := space.Vector{}
 	for edge := range f.edges() {
 		first := p.Corners[0]
-		twice = twice.plus(way(first, edge.A).cross(way(first, edge.B)))
+		twice = twice.Plus(space.Way(first, edge.A).Cross(space.Way(first, edge.B)))
 	}
-	square := exact.Quotient(twice.exactDot(twice), exact.Whole(4))
+	square := exact.Quotient(twice.ExactDot(twice), exact.Whole(4))
 	return number.Root(api.Rat(square.String()))
 }
 
@@ -52,8 +53,8 @@ func Steepness(p Panel) (api.Rat, api.Errno) {
 	if e != api.OK {
 		return "", e
 	}
-	z := exact.Whole(f.vector[zAxis])
-	return ratio(z.Times(z.Size()), f.vector.exactDot(f.vector)), api.OK
+	z := exact.Whole(f.vector[space.Z])
+	return ratio(z.Times(z.Size()), f.vector.ExactDot(f.vector)), api.OK
 }
 
 // On returns 1, 0 or -1 for a place inside, on the border, or outside of a panel, in its plane.
@@ -74,8 +75,8 @@ func faceOf(p Panel) (face, api.Errno) {
 		return face{}, e
 	}
 	c := p.Corners
-	f := face{panel: p, vector: way(c[0], c[1]).cross(way(c[1], c[2]))}
-	if f.vector.isZero() {
+	f := face{panel: p, vector: space.Way(c[0], c[1]).Cross(space.Way(c[1], c[2]))}
+	if f.vector.IsZero() {
 		return face{}, api.ErrShape
 	}
 	for f.vector[f.axis] == 0 {
@@ -121,9 +122,9 @@ func (f face) checkBorder() api.Errno {
 }
 
 func (f face) checkGrid() api.Errno {
-	u, v := vectorOf(f.panel.U), vectorOf(f.panel.V)
-	leaves := f.height(f.panel.Origin) != 0 || f.vector.dot(u) != 0 || f.vector.dot(v) != 0
-	return check.First(check.If(leaves, api.ErrPlane), check.If(u.cross(v).isZero(), api.ErrSingular))
+	u, v := space.Of(f.panel.U), space.Of(f.panel.V)
+	leaves := f.height(f.panel.Origin) != 0 || f.vector.Dot(u) != 0 || f.vector.Dot(v) != 0
+	return check.First(check.If(leaves, api.ErrPlane), check.If(u.Cross(v).IsZero(), api.ErrSingular))
 }
 
 // edges visits the edges of a panel, in the order of the corners from which they go.
@@ -140,13 +141,13 @@ func (f face) edges() iter.Seq[Edge] {
 
 // height is above 0 for a place on the side of the climbers, 0 for one in the plane, and below 0 behind it.
 func (f face) height(at api.Place) int {
-	return f.vector.dot(way(f.panel.Corners[0], at))
+	return f.vector.Dot(space.Way(f.panel.Corners[0], at))
 }
 
 // side returns 1, 0 or -1 for a place of the plane on the inner side of an edge, in line with it, or on its outer side.
 func (f face) side(e Edge, at api.Place) int {
 	// In the plane each cross product is a multiple of the vector, so one coordinate has its sign.
-	turn := way(e.A, e.B).cross(way(e.A, at))
+	turn := space.Way(e.A, e.B).Cross(space.Way(e.A, at))
 	return sign(turn[f.axis]) * sign(f.vector[f.axis])
 }
 

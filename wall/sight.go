@@ -3,6 +3,7 @@ package wall
 import (
 	"crux/api"
 	"crux/check"
+	"crux/space"
 )
 
 // maxReach is the greatest distance that Within accepts.
@@ -14,7 +15,7 @@ func Distance(w Wall, a, b string) (int, api.Errno) {
 	if e != api.OK {
 		return 0, e
 	}
-	return distance(from, to), api.OK
+	return space.Square(from, to), api.OK
 }
 
 // Within returns the holds that are at most a distance away from a hold.
@@ -27,7 +28,7 @@ func Within(w Wall, hold string, reach int) ([]string, api.Errno) {
 	}
 	var names []string
 	for i, h := range w.Holds {
-		if h.Name != hold && distance(from, s.spots[i]) <= reach*reach {
+		if h.Name != hold && space.Square(from, s.spots[i]) <= reach*reach {
 			names = append(names, h.Name)
 		}
 	}
@@ -59,12 +60,6 @@ func twoSpots(w Wall, a, b string) (structure, api.Place, api.Place, api.Errno) 
 	return s, from, to, check.First(e, first, second)
 }
 
-// distance returns the square of the distance of two places.
-func distance(a, b api.Place) int {
-	d := way(a, b)
-	return d.dot(d)
-}
-
 func (s *structure) blocks(a, b api.Place) []int {
 	var between []int
 	for n, f := range s.faces {
@@ -82,7 +77,7 @@ func (f face) standsBetween(a, b api.Place) bool {
 	}
 	for e := range f.edges() {
 		// The triple product does not change if a goes on along the way to the plane. There the cross product is a multiple of the vector: a negative one if the point is outside of the edge.
-		turn := way(a, b).dot(way(a, e.A).cross(way(a, e.B)))
+		turn := space.Way(a, b).Dot(space.Way(a, e.A).Cross(space.Way(a, e.B)))
 		if sign(turn)*end < 0 {
 			return false
 		}

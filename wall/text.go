@@ -5,6 +5,7 @@ import (
 	"strings"
 
 	"crux/api"
+	"crux/space"
 )
 
 // maxDigits is the number of digits of the integers in the text of a wall.
@@ -152,10 +153,10 @@ func readPlaces(words []string) ([]api.Place, bool) {
 	var places []api.Place
 	for _, word := range words {
 		l, ok := readIntegers(strings.Split(word, ","))
-		if !ok || len(l) != axes {
+		if !ok || len(l) != space.Axes {
 			return nil, false
 		}
-		places = append(places, vector(l).place())
+		places = append(places, space.Vector(l).Place())
 	}
 	return places, true
 }
