@@ -110,6 +110,19 @@ func TestWholeNumbers(t *testing.T) {
 	same(t, "Root", Parse("99980000").Root(), big.NewInt(9998))
 }
 
+func TestReadShort(t *testing.T) {
+	for text, wanted := range map[string]int{"0": 0, "7": 7, "-1": -1, "10": 10, "999999999": 999999999, "-999999999": -999999999, "-100": -100} {
+		if got, ok := ReadShort(text); got != wanted || !ok {
+			t.Errorf("%q: got %d, %v", text, got, ok)
+		}
+	}
+	for _, text := range []string{"", "-", "-0", "00", "01", "-01", "+1", "--1", "1000000000", "-1000000000", "0000000001", "99999999999999999999", "1_0", "0x1", " 1", "1 ", "1.0", "1e2", "\u0661", "x"} {
+		if got, ok := ReadShort(text); got != 0 || ok {
+			t.Errorf("%q: got %d, %v", text, got, ok)
+		}
+	}
+}
+
 func TestRationals(t *testing.T) {
 	r := rand.New(rand.NewSource(3))
 	for range 1000 {

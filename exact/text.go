@@ -12,6 +12,9 @@ const (
 	groupSize = 10000000000000000000
 )
 
+// shortDigits is the number of digits that integers in the texts of people have at most.
+const shortDigits = 9
+
 // Parse returns the integer with decimal digits, without a sign.
 func Parse(digits string) Int {
 	z := nat(nil)
@@ -66,4 +69,14 @@ func (a Rat) String() string {
 		return a.num.String()
 	}
 	return a.num.String() + "/" + a.den.String()
+}
+
+// ReadShort returns the integer with a text of at most 9 digits without zeros in front, with a minus sign in front if it is negative; and whether the text is one.
+func ReadShort(text string) (int, bool) {
+	n, err := strconv.Atoi(text)
+	digits := strings.TrimPrefix(text, "-")
+	if err != nil || len(digits) > shortDigits || strconv.Itoa(n) != text {
+		return 0, false
+	}
+	return n, true
 }

@@ -5,11 +5,9 @@ import (
 	"strings"
 
 	"crux/api"
+	"crux/exact"
 	"crux/space"
 )
-
-// maxDigits is the number of digits of the integers in the text of a wall.
-const maxDigits = 9
 
 // Print returns the text of a wall.
 func Print(w Wall) (string, api.Errno) {
@@ -164,9 +162,8 @@ func readPlaces(words []string) ([]api.Place, bool) {
 func readIntegers(words []string) ([]int, bool) {
 	var l []int
 	for _, word := range words {
-		n, err := strconv.Atoi(word)
-		long := len(strings.TrimPrefix(word, "-")) > maxDigits
-		if err != nil || long || strconv.Itoa(n) != word {
+		n, ok := exact.ReadShort(word)
+		if !ok {
 			return nil, false
 		}
 		l = append(l, n)
